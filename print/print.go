@@ -5,6 +5,7 @@ import (
 	"strconv"
 
 	"cornbin/api"
+	"cornbin/digits"
 )
 
 const (
@@ -12,7 +13,6 @@ const (
 	times     = 16777619
 	hexLen    = 8 // digits of a print
 	lenDigits = 6 // most digits of a Len that is read
-	hexDigits = "0123456789abcdef"
 )
 
 // More of a text.
@@ -43,7 +43,7 @@ func Text(id api.ID) string {
 	if id.Len < 0 {
 		return ""
 	}
-	return hexText(id.Print) + "-" + strconv.Itoa(id.Len)
+	return digits.Hex(id.Print) + "-" + strconv.Itoa(id.Len)
 }
 
 // Read an ID.
@@ -51,51 +51,10 @@ func Read(s string) (api.ID, error) {
 	if len(s) <= hexLen || s[hexLen] != '-' {
 		return api.ID{}, api.ErrText
 	}
-	n, isHex := readHex(s[:hexLen])
-	many, isLen := readLen(s[hexLen+1:])
+	n, isHex := digits.ReadHex(s[:hexLen])
+	many, isLen := digits.Read(s[hexLen+1:], lenDigits)
 	if !isHex || !isLen {
 		return api.ID{}, api.ErrText
 	}
 	return api.ID{Print: n, Len: many}, nil
-}
-
-func hexText(n uint32) string {
-	b := make([]byte, hexLen)
-	for i := range b {
-		b[hexLen-1-i] = hexDigits[n&15]
-		n >>= 4
-	}
-	return string(b)
-}
-
-// strconv.ParseUint would take capital letters too, so digits are read one by one.
-func readHex(s string) (uint32, bool) {
-	var n uint32
-	for i := range len(s) {
-		c := s[i]
-		switch {
-		case '0' <= c && c <= '9':
-			n = n<<4 | uint32(c-'0')
-		case 'a' <= c && c <= 'f':
-			n = n<<4 | uint32(c-'a'+10)
-		default:
-			return 0, false
-		}
-	}
-	return n, true
-}
-
-// strconv.Atoi would take a sign and needless zeros too.
-func readLen(s string) (int, bool) {
-	if s == "" || len(s) > lenDigits || len(s) > 1 && s[0] == '0' {
-		return 0, false
-	}
-	n := 0
-	for i := range len(s) {
-		if s[i] < '0' || s[i] > '9' {
-			return 0, false
-		}
-		n = n*10 + int(s[i]-'0')
-	}
-	return n, true
 }
