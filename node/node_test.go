@@ -1,6 +1,7 @@
 package node
 
 import (
+	"errors"
 	"fmt"
 	"maps"
 	"math"
@@ -710,5 +711,112 @@ func TestAnyBytesAreGot(t *testing.T) {
 		if s, err := n.Get("a"); s != string(b) || err != nil {
 			t.Fatalf("%q: %q, %v", b, s, err)
 		}
+	}
+}
+
+// Files of a rep (beside the document): by names, of no other rep, and new memory.
+func TestFiles(t *testing.T) {
+	l := blocks()
+	n := New()
+	for name, s := range map[string]string{"b": l[0] + l[1], "a": l[0] + l[0], "c": l[1] + l[2], "-": l[0], "e": ""} {
+		put(t, n, name, s)
+	}
+	before := tell(n)
+	for range 2 {
+		for rep, want := range map[string][]string{l[0]: {"-", "a", "b"}, l[1]: {"c"}, "": {"e"}, l[2]: nil, "q": nil} {
+			var got []string
+			for _, r := range n.Files(print.ID(rep)) {
+				own, err := n.Recipe(r.Name)
+				if fmt.Sprint(r) != fmt.Sprint(own) || err != nil {
+					t.Errorf("%v, want %v, %v", r, own, err)
+				}
+				got = append(got, r.Name)
+				for i := range r.IDs {
+					r.IDs[i] = api.ID{}
+				}
+			}
+			if !slices.Equal(got, want) {
+				t.Errorf("files of %.3q: %v, want %v", rep, got, want)
+			}
+		}
+	}
+	wantTold(t, "written into", n, before)
+	if got := (&Node{}).Files(print.ID("")); len(got) != 0 {
+		t.Errorf("files of a node that New did not make: %v", got)
+	}
+}
+
+// Take of what another node has (beside the document): all of it, and nothing that is handed over is kept.
+func TestTake(t *testing.T) {
+	l := blocks()
+	from := New()
+	for name, s := range map[string]string{"b": l[0] + l[1], "a": l[0] + l[0], "goes": l[0] + l[2], "c": l[1]} {
+		put(t, from, name, s)
+	}
+	drop(t, from, "goes")
+	rep := print.ID(l[0])
+	for _, n := range []*Node{New(), {}} {
+		files, pieces := from.Files(rep), from.Bin(rep).All()
+		if err := n.Take(rep, files, pieces); err != nil {
+			t.Fatal(err)
+		}
+		files[0].IDs[0], files[0].Name, pieces[0] = api.ID{}, "written", api.Held{}
+		want := from.Copy()
+		drop(t, want, "c")
+		wantTold(t, "taken", n, tell(want))
+		put(t, n, "c", l[1])
+		wantTold(t, "put behind", n, tell(from))
+		if fresh := put(t, n, "again", l[0]+l[2]); fresh != 0 {
+			t.Errorf("%d bytes are new", fresh)
+		}
+	}
+}
+
+// Take's errors in their order; with one nothing changes.
+func TestTakeWrong(t *testing.T) {
+	l := blocks()
+	n := New()
+	for k := range api.MaxFiles - 1 {
+		put(t, n, fmt.Sprint("n", k), l[0])
+	}
+	before := tell(n)
+	of := func(names ...string) []api.Recipe {
+		var files []api.Recipe
+		for _, name := range names {
+			r, err := recipe.Of(name, "x")
+			if err != nil {
+				t.Fatal(err)
+			}
+			files = append(files, r)
+		}
+		return files
+	}
+	rep, there := print.ID("x"), print.ID(l[0])
+	right, wrong := []api.Held{{ID: rep, Uses: 1, Text: "x"}}, []api.Held{{ID: print.ID("")}}
+	for i, c := range []struct {
+		rep    api.ID
+		files  []api.Recipe
+		pieces []api.Held
+		want   error
+	}{
+		{rep, of("n3"), right, api.ErrExist},
+		{rep, of("a", "b", "n28"), wrong, api.ErrExist},
+		{there, of("a"), right, api.ErrExist},
+		{there, of("a", "b"), wrong, api.ErrExist},
+		{there, nil, nil, api.ErrExist},
+		{rep, of("a", "b"), right, api.ErrFull},
+		{rep, of("a", "b"), wrong, api.ErrFull},
+		{rep, of("a"), wrong, api.ErrBound},
+		{rep, of("a"), append(right, right...), api.ErrOrder},
+		{rep, of("a"), make([]api.Held, api.MaxPieces+1), api.ErrFull},
+	} {
+		err := n.Take(c.rep, c.files, c.pieces)
+		if !errors.Is(err, c.want) {
+			t.Errorf("%d: %v, want %v", i, err, c.want)
+		}
+		wantTold(t, fmt.Sprint("behind ", i), n, before)
+	}
+	if err := n.Take(rep, of("a"), right); err != nil || len(n.Names()) != api.MaxFiles {
+		t.Errorf("as many as may be: %v", err)
 	}
 }
